@@ -408,7 +408,24 @@ func TestEnergyOf(t *testing.T) {
 	}
 }
 
-// TestSignalResultsAreNew changes a result, also in what is left of its memory, and looks at the argument and at another result.
+// wantNewResults changes the result of each call, also in what is left of its memory, and looks at the argument of the calls and at other results.
+func wantNewResults(t *testing.T, calls map[string]func() ([]int, bool), argument []int) {
+	t.Helper()
+	before := slices.Clone(argument)
+	for name, call := range calls {
+		first, _ := call()
+		want := slices.Clone(first)
+		second, _ := call()
+		for i := range first[:cap(first)] {
+			first[:cap(first)][i] = 77
+		}
+		third, ok := call()
+		wantSignal(t, name+" again", second, true, want)
+		wantSignal(t, name+" anew", third, ok, want)
+		wantSignal(t, "the argument of "+name, argument, true, before)
+	}
+}
+
 func TestSignalResultsAreNew(t *testing.T) {
 	s, users := []int{1, -2, 3, 0}, []impl.User{{Code: "01", Data: "01", Gain: 1}}
 	calls := map[string]func() ([]int, bool){
@@ -427,18 +444,7 @@ func TestSignalResultsAreNew(t *testing.T) {
 		"SendAll":            func() ([]int, bool) { return impl.SendAll(users) },
 		"SendAll, none":      func() ([]int, bool) { return impl.SendAll(nil) },
 	}
-	for name, call := range calls {
-		first, _ := call()
-		want := slices.Clone(first)
-		second, _ := call()
-		for i := range first[:cap(first)] {
-			first[:cap(first)][i] = 77
-		}
-		third, ok := call()
-		wantSignal(t, name+" again", second, true, want)
-		wantSignal(t, name+" anew", third, ok, want)
-		wantSignal(t, "the argument of "+name, s, true, []int{1, -2, 3, 0})
-	}
+	wantNewResults(t, calls, s)
 }
 
 // TestSpreadingArgumentsStay looks for changes of arguments and of the memory behind them.
